@@ -253,21 +253,27 @@ func TestNew(t *testing.T) {
 	checkSame(t, s, other, false)
 }
 
-// P13.1: a state that New did not make is as a new one.
-func TestZeroState(t *testing.T) {
-	var s, idle shard.State
-	checkState(t, &idle, has{lows: first})
-	checkSame(t, &idle, shard.New(), true)
-	twin := idle.Twin()
-	checkState(t, twin, has{lows: first})
-	checkApply(t, twin, add(3, 2, 2, "b", 1, 1), api.Taken)
-	checkState(t, &idle, has{lows: first})
-	checkIdle(t, &s, add(4, 1, 1, "a", 3, 5), api.Refused)
-	checkApply(t, &s, mark(0, 1, 1, 14), api.Taken)
-	checkApply(t, &s, add(0, 2, 1, "a", 3, 5), api.Taken)
-	checkIdle(t, &s, add(0, 2, 1, "a", 3, 5), api.Taken)
-	checkApply(t, &s, mark(0, 3, 2, 15), api.Taken, out("a", 0, 5))
-	checkState(t, &s, has{mark: 15, lows: lows4{2, 1, 1, 1}, answers: []seen.Entry{said(0, 2, 1), said(0, 3, 1)}})
+// R1: a state that nobody made refuses all, and has nothing, not even low marks: so it is
+// the same as another such one, but not as a new one.
+func TestStateThatNobodyMade(t *testing.T) {
+	var s, other shard.State
+	twin := s.Twin()
+	if twin == nil || twin == &s {
+		t.Fatalf("the twin is %p", twin)
+	}
+	for _, one := range []*shard.State{&s, twin} {
+		for _, n := range append(wrongNumbers(), numbers{0, 1, 1}, numbers{3, 16, 1}, numbers{2, most, most}) {
+			for _, x := range acting(n) {
+				checkIdle(t, one, x, api.Refused)
+			}
+		}
+		if one.Mark() != 0 || len(one.Open()) != 0 || len(one.Lows()) != 0 || len(one.Answers()) != 0 {
+			t.Errorf("it has %d, %s, %d, %v", one.Mark(), told(one.Open()), one.Lows(), one.Answers())
+		}
+		checkSame(t, one, &other, true)
+		checkSame(t, one, shard.New(), false)
+		checkSame(t, one, nil, false)
+	}
 }
 
 // P13.1: a state of these has these.
@@ -766,7 +772,6 @@ func TestNilState(t *testing.T) {
 		checkSame(t, stateOf(t, h), nil, false)
 	}
 	checkSame(t, shard.New(), nil, false)
-	checkSame(t, &shard.State{}, nil, false)
 }
 
 // P13.1, R4: what is handed in is not changed, its spare room neither, and not kept.
